@@ -3,18 +3,9 @@ package match
 import (
 	"strings"
 	"testing"
-)
 
-// texts are all texts of some signs, up to a length.
-func texts(signs string, most int) []string {
-	l := []string{""}
-	for at := 0; len(l[at]) < most; at++ {
-		for i := range len(signs) {
-			l = append(l, l[at]+signs[i:i+1])
-		}
-	}
-	return l
-}
+	"rehearsal/short"
+)
 
 // every byte, as a text.
 func bytesAll() []string {
@@ -220,16 +211,16 @@ func TestFitsEachByte(t *testing.T) {
 
 // P2.1: all short patterns of the signs that matter.
 func TestFitsShort(t *testing.T) {
-	some := texts("a]-![\\", 2)
-	for _, p := range texts("*?[]!-\\a", 5) {
+	some := short.Texts("a]-![\\", 2)
+	for _, p := range short.Texts("*?[]!-\\a", 5) {
 		for _, s := range some {
 			if got, want := Fits(p, s), fitsPlainly(p, s); got != want {
 				t.Fatalf("Fits(%q, %q) = %t", p, s, got)
 			}
 		}
 	}
-	some = texts("abc", 5)
-	for _, p := range texts("*?ab", 5) {
+	some = short.Texts("abc", 5)
+	for _, p := range short.Texts("*?ab", 5) {
 		for _, s := range some {
 			if got, want := Fits(p, s), fitsPlainly(p, s); got != want {
 				t.Fatalf("Fits(%q, %q) = %t", p, s, got)
@@ -352,8 +343,8 @@ func cutPlainly(p, s string, end, most bool) string {
 
 // P2.3, P2.4: what is cut off fits, and nothing shorter (longer) does.
 func TestCutShort(t *testing.T) {
-	some := texts("ab]", 3)
-	for _, p := range texts("*?[]!a", 4) {
+	some := short.Texts("ab]", 3)
+	for _, p := range short.Texts("*?[]!a", 4) {
 		for _, s := range some {
 			for way := range 4 {
 				end, most := way&1 == 1, way&2 == 2
@@ -367,7 +358,7 @@ func TestCutShort(t *testing.T) {
 
 // P2.4: a text alone fits what it is quoted as, which is plain.
 func TestQuoteFits(t *testing.T) {
-	some := texts("*?[]!-\\a", 3)
+	some := short.Texts("*?[]!-\\a", 3)
 	for _, s := range some {
 		p := Quote(s)
 		if got, ok := Plain(p); !ok || got != s {
@@ -383,8 +374,8 @@ func TestQuoteFits(t *testing.T) {
 
 // P2.4: a text fits * and p and * just if a part of it fits p. (A \ that ends p stands for itself there, but not with a * behind it.)
 func TestFitsWithin(t *testing.T) {
-	some := texts("ab]", 3)
-	for _, p := range texts("*?[]!a", 4) {
+	some := short.Texts("ab]", 3)
+	for _, p := range short.Texts("*?[]!a", 4) {
 		for _, s := range some {
 			want := false
 			for from := range len(s) + 1 {
