@@ -142,12 +142,19 @@ func (o *Over) Room() api.Room {
 	return o.below.Room
 }
 
-// Fresh tells a number that no node had.
+// Fresh gives a number that no node had, and never gives it again, whether a node is put with it or not.
 func (o *Over) Fresh() int {
 	if o.none() {
 		return 0
 	}
-	return o.last + 1
+	id := o.last + 1
+	o.give(id)
+	return id
+}
+
+// give keeps the greatest number given; one that is put may be smaller, and takes nothing back.
+func (o *Over) give(id int) {
+	o.last = max(o.last, id)
 }
 
 // Put lays a node down above; its entries stay.
@@ -157,7 +164,7 @@ func (o *Over) Put(n api.Node) {
 	}
 	n.Entries = nil
 	o.put[n.ID] = n
-	o.last = max(o.last, n.ID)
+	o.give(n.ID)
 }
 
 // Bind lets a name lead to a node; to none, if that is 0.

@@ -69,7 +69,7 @@ func TestBelow(t *testing.T) {
 		{func() any { return o.Links(1) }, "0", fact(api.FactLinks, 1)},
 		{func() any { n, b := o.Usage(); return []int{n, b} }, "[12 23]", fact(api.FactUsage, 0)},
 		{func() any { return o.Room() }, "{1000 1048576}", nil},
-		{func() any { return o.Fresh() }, "21", nil},
+		{func() any { return o.Tree().Last }, "20", nil},
 	})
 }
 
@@ -86,7 +86,7 @@ func TestPut(t *testing.T) {
 		{func() any { return o.Entry(3, "no") }, "0", leads(3, "no", 0)},
 		{func() any { return o.Entry(3, "l") }, "10", leads(3, "l", 10)},
 		{func() any { return o.Entries(3) }, "[{d 4} {f 7} {l 10} {u 11}]", fact(api.FactList, 3)},
-		{func() any { return o.Fresh() }, "21", nil},
+		{func() any { return o.Tree().Last }, "20", nil},
 	})
 	if n := o.Lower().Nodes; n[4].Data != "hi\x00" || n[1].Mode != 0o755 {
 		t.Error(n)
@@ -97,14 +97,14 @@ func TestPut(t *testing.T) {
 func TestPutFresh(t *testing.T) {
 	o := made(t)
 	answer(t, o, []ask{
-		{func() any { o.Put(dir(21, to("no", 5))); return o.Fresh() }, "22", nil},
+		{func() any { o.Put(dir(21, to("no", 5))); return o.Tree().Last }, "21", nil},
 		{func() any { return o.Kind(21) }, "1", nil},
 		{func() any { return o.Node(21) }, "{21 1 493 0 0  []}", nil},
 		{func() any { return o.Entry(21, "no") }, "0", nil},
 		{func() any { return o.Entries(21) }, "[]", nil},
 		{func() any { return o.Links(21) }, "0", nil},
 		{func() any { o.Bind(1, "new", 21); return o.Links(21) }, "1", nil},
-		{func() any { o.Put(file(22, "12345")); return o.Fresh() }, "23", nil},
+		{func() any { o.Put(file(22, "12345")); return o.Tree().Last }, "22", nil},
 		{func() any { o.Bind(21, "b", 22); return o.Entry(21, "b") }, "22", nil},
 		{func() any { o.Bind(21, "a", 7); return o.Entries(21) }, "[{a 7} {b 22}]", nil},
 		{func() any { return o.Links(7) }, "3", fact(api.FactLinks, 7)},
@@ -114,12 +114,10 @@ func TestPutFresh(t *testing.T) {
 		{func() any { n, b := o.Usage(); return []int{n, b} }, "[14 28]", fact(api.FactUsage, 0)},
 		{func() any { o.Drop(22); return o.Node(22) }, "{0 0 0 0 0  []}", nil},
 		{func() any { n, b := o.Usage(); return []int{n, b} }, "[13 23]", nil},
-		// Its number isn't given once more.
-		{func() any { return o.Fresh() }, "23", nil},
-		{func() any { o.Put(file(40, "")); return o.Fresh() }, "41", nil},
+		{func() any { return o.Tree().Last }, "22", nil},
+		{func() any { o.Put(file(40, "")); return o.Tree().Last }, "40", nil},
 	})
-	x := o.Tree()
-	if x.Last != 40 || len(o.Lower().Nodes) != 12 || o.Lower().Last != 20 {
+	if x := o.Lower(); !equal(x, usual()) {
 		t.Error(x)
 	}
 }
@@ -165,13 +163,87 @@ func TestDrop(t *testing.T) {
 		{func() any { return o.Entry(4, "g") }, "0", nil},
 		// What a directory had that is there no more leads to nothing.
 		{func() any { return o.Links(5) }, "0", fact(api.FactLinks, 5)},
-		{func() any { return o.Fresh() }, "21", nil},
+		{func() any { return o.Tree().Last }, "20", nil},
 	})
 	if x := o.Tree(); len(x.Nodes) != 9 || x.Last != 20 {
 		t.Error(x)
 	}
 	if !equal(o.Lower(), usual()) {
 		t.Error(o.Lower())
+	}
+}
+
+// fresh asks for a number, and holds it, and the greatest one given behind that, against what is wanted.
+func fresh(t *testing.T, o *Over, want int) {
+	t.Helper()
+	was := o.Facts()
+	if id := o.Fresh(); id != want || o.Tree().Last != want {
+		t.Errorf("Fresh = %d, then Last %d, not %d", id, o.Tree().Last, want)
+	}
+	if !slices.Equal(o.Facts(), was) || !equal(o.Lower(), usual()) {
+		t.Error("Fresh is seen below", o.Facts(), o.Lower())
+	}
+}
+
+// P6.2, P6.3: a number is given by Fresh, whether a node is put with it or not, and none is given twice.
+func TestFresh(t *testing.T) {
+	o, other := made(t), made(t)
+	if n := o.Tree().Last; n != 20 {
+		t.Error(n)
+	}
+	for id := 21; id < 30; id++ {
+		fresh(t, o, id)
+	}
+	if !slices.EqualFunc(o.Tree().Nodes, usual().Nodes, tree.SameNode) {
+		t.Error("Fresh changes nodes", o.Tree())
+	}
+	// A number that was given, or was there already, is put: nothing is given by that.
+	o.Put(file(29, ""))
+	fresh(t, o, 30)
+	o.Put(file(25, ""))
+	o.Put(file(7, ""))
+	fresh(t, o, 31)
+	// One that is greater than those given is given by Put.
+	o.Put(file(33, ""))
+	if n := o.Tree().Last; n != 33 {
+		t.Error(n)
+	}
+	fresh(t, o, 34)
+	// Nodes that are there no more, and names, take no number back.
+	o.Bind(1, "x", 33)
+	o.Bind(1, "x", 0)
+	for _, id := range []int{33, 29, 25, 7} {
+		o.Drop(id)
+	}
+	fresh(t, o, 35)
+	// What one store gave plays no part in another one.
+	fresh(t, other, 21)
+}
+
+// P6.2, P6.3: what calls of Files make has the number behind the greatest one given; calls that make nothing, or have no room for it, give none.
+func TestFreshOfCalls(t *testing.T) {
+	for given := range 4 {
+		f, o, _ := Open(acts.Tree(api.Room{Nodes: 13, Bytes: 99}), 0)
+		for range given {
+			o.Fresh()
+		}
+		f.Read("/f")
+		f.Write("/f", "y", api.Append)
+		f.Rename("/f", "/y")
+		f.Mkdir("/e", 0)
+		if n := o.Tree().Last; n != 20+given {
+			t.Error(given, n)
+		}
+		f.Mkdir("/x", 0)
+		if id := o.Entry(1, "x"); id != 21+given || o.Tree().Last != id {
+			t.Error(given, id, o.Tree().Last)
+		}
+		if e := f.Mkdir("/z", 0); e != api.NoSpace || o.Tree().Last != 21+given {
+			t.Error(given, e, o.Tree().Last)
+		}
+		if x := o.Tree(); tree.Check(x) != api.OK || o.Lower().Last != 20 {
+			t.Error(given, x)
+		}
 	}
 }
 
@@ -256,7 +328,7 @@ func (w *notes) hold(t *testing.T, o *Over, d *vtree.Disk, turn func(int) int) {
 	t.Helper()
 	w.facts[api.Fact{Kind: api.FactUsage}]++
 	n, b := o.Usage()
-	if m, c := d.Usage(); n != m || b != c || o.Fresh() != d.Fresh() || o.Room() != d.Room() || !equal(o.Tree(), d.Tree()) {
+	if m, c := d.Usage(); n != m || b != c || o.Room() != d.Room() || !equal(o.Tree(), d.Tree()) {
 		t.Fatalf("%+v is %+v on a disk", o.Tree(), d.Tree())
 	}
 	seen := d.Tree().Nodes
@@ -297,7 +369,8 @@ func (w *notes) hold(t *testing.T, o *Over, d *vtree.Disk, turn func(int) int) {
 }
 
 // change makes one change, the same on a store and a disk.
-func (w *notes) change(o *Over, d *vtree.Disk, turn func(int) int) {
+func (w *notes) change(t *testing.T, o *Over, d *vtree.Disk, turn func(int) int) {
+	t.Helper()
 	seen := d.Tree().Nodes
 	n, m := seen[turn(len(seen))], seen[turn(len(seen))]
 	switch turn(4) {
@@ -310,7 +383,11 @@ func (w *notes) change(o *Over, d *vtree.Disk, turn func(int) int) {
 		o.Put(n)
 		d.Put(n)
 	case 1:
-		x := api.Node{ID: d.Fresh() + turn(2), Kind: 1 + turn(3), Data: "new"}
+		id := o.Fresh()
+		if id != d.Fresh() {
+			t.Fatal(id, d.Fresh())
+		}
+		x := api.Node{ID: id + turn(2), Kind: 1 + turn(3), Data: "new"}
 		w.put[x.ID]++
 		o.Put(x)
 		d.Put(x)
@@ -342,7 +419,7 @@ func TestAsDisk(t *testing.T) {
 		d, _ := vtree.NewDisk(usual())
 		w := &notes{usual(), map[int]int{}, map[api.Entry]int{}, map[api.Fact]int{}}
 		for range 300 {
-			w.change(o, d, turn)
+			w.change(t, o, d, turn)
 			w.hold(t, o, d, turn)
 			facts := o.Facts()
 			if len(facts) != len(w.facts) || slices.ContainsFunc(facts, func(x api.Fact) bool { return w.facts[x] == 0 }) {
